@@ -31,7 +31,6 @@ func TestTokens(t *testing.T) { // P13.1
 		{"'a' 'b'", []api.Token{text("a", 0), text("b", 4)}},
 		{"'--\n\x00\xff'", []api.Token{text("--\n\x00\xff", 0)}},
 		{"x'0f'", []api.Token{blob("\x0f", 0)}},
-		{"x''x2", nil},
 		{"x 'a'", []api.Token{name("x", 0), text("a", 2)}},
 		{"xx'a'", []api.Token{name("xx", 0), text("a", 2)}},
 		{"a--b", []api.Token{name("a", 0)}},
@@ -51,12 +50,6 @@ func TestTokens(t *testing.T) { // P13.1
 		{strings.Repeat(" ", 4096), nil},
 	} {
 		l, spot := Tokens(c.s)
-		if c.s == "x''x2" {
-			if spot != (api.Spot{Err: api.ErrText, At: 3}) {
-				t.Error(spot)
-			}
-			continue
-		}
 		if !slices.Equal(l, c.l) || spot != (api.Spot{}) {
 			t.Errorf("%.40q: %v %v", c.s, l, spot)
 		}
@@ -81,7 +74,7 @@ func TestTokensWrong(t *testing.T) { // P13.1
 		{"'" + aa + "'", api.ErrLong, 0}, {"'" + aa + "'b", api.ErrLong, 0}, {"'" + aa, api.ErrText, 1002}, {"x'" + strings.Repeat("00", 1001) + "'", api.ErrLong, 0},
 		{"x'" + strings.Repeat("00", 1001) + "0'", api.ErrText, 2005}, {"x'" + strings.Repeat("00", 1001) + "'a", api.ErrLong, 0},
 		{strings.Repeat(" ", 4097), api.ErrLong, 4096}, {"!" + strings.Repeat(" ", 5000), api.ErrLong, 4096},
-		{"a ! 01", api.ErrText, 2},
+		{"a ! 01", api.ErrText, 2}, {"x''x2", api.ErrText, 3},
 	} {
 		l, spot := Tokens(c.s)
 		if l != nil || spot != (api.Spot{Err: c.e, At: c.at}) {

@@ -253,6 +253,12 @@ func TestRestore(t *testing.T) { // P30.4
 			t.Error(k, d.Ops())
 		}
 	}
+	for k := 1; k < 4; k++ {
+		d := files.New()
+		if want(t, "Restore", Restore(d, s, uint64(k)), api.OK); !slices.Equal(told(t, opened(t, d)), states[k]) {
+			t.Error("not as it was:", k)
+		}
+	}
 	r := rand.New(rand.NewSource(31))
 	whole := 0
 	for range 300 { // P30.6: whenever the power goes, whatever is kept

@@ -137,6 +137,16 @@ func TestErrors(t *testing.T) { // P12.1 to P12.4: what is refused
 	want(t, "Delete", e, api.ErrState)
 	want(t, "Drop", Drop(p, 0), api.ErrState)
 	want(t, "Drop", Drop(p, r), api.ErrState)
+	p = begun(t)
+	r = put(t, p, 0, "a", "1")
+	for _, k := range []string{long, "b"} { // with an error the root is 0
+		if n, e := Delete(p, r, k); n != 0 || e == api.OK {
+			t.Error(n, e)
+		}
+		if n, e := Put(p, 99, k, ""); n != 0 || e == api.OK {
+			t.Error(n, e)
+		}
+	}
 	if s, e := Get(p, r, "a"); s != "1" || e != api.OK {
 		t.Error(s, e)
 	}
@@ -404,6 +414,62 @@ func TestUnsound(t *testing.T) { // P12.4
 		want(t, "Put", e, api.ErrBytes)
 		_, e = Delete(p, root, "a")
 		want(t, "Delete", e, api.ErrBytes)
+	}
+}
+
+// keyOf: a key of so many bytes that begins so.
+func keyOf(s string, size int) string { return s + strings.Repeat("k", size-len(s)) }
+
+func TestShared(t *testing.T) { // an inner page that is left with one page gets some of the one beside it
+	for _, short := range []int{0, 44} { // with so many short keys above: a longer one between is too much, then
+		for _, behind := range []bool{false, true} {
+			// Two inner pages: one full of long keys, one that will be left with one page.
+			var nodes []api.Node
+			add := func(n api.Node) int {
+				nodes = append(nodes, n)
+				return len(nodes) + 2 // the root is page 2
+			}
+			full := func(s string) int {
+				n := inner(add(leaf(s)))
+				for i, size := range []int{100, 100, 100, 100, 75} {
+					k := keyOf(s+string(rune('a'+i)), size)
+					n.Cells = append(n.Cells, to(k, add(leaf(k))))
+				}
+				return add(n)
+			}
+			two := func(s string) int {
+				a := add(leaf(s))
+				return add(inner(a, to(s+"m", add(leaf(s+"m")))))
+			}
+			root := inner(0)
+			victim := "f"
+			if behind {
+				root.First = two("f")
+				root.Cells = append(root.Cells, to("g", full("g")))
+			} else {
+				root.First = full("e")
+				root.Cells = append(root.Cells, to("f", two("f")))
+			}
+			for i := range short {
+				s := "h" + string(rune('0'+i/6)) + string(rune('0'+i%6)) + "sss"
+				root.Cells = append(root.Cells, to(s, two(s)))
+			}
+			p := laid(t, append([]api.Node{root}, nodes...)...)
+			model := map[string]string{}
+			for k := range All(p, 2, "") {
+				model[k] = ""
+			}
+			accounted(t, p, sound(t, p, 2, model))
+			r, e := Delete(p, 2, victim)
+			delete(model, victim)
+			if e != api.OK {
+				t.Fatal("Delete:", e)
+			}
+			accounted(t, p, sound(t, p, r, model))
+			if (r == 2) != (short == 0) {
+				t.Error("a root that is too much is split:", short, r)
+			}
+		}
 	}
 }
 

@@ -115,6 +115,13 @@ func TestMerge(t *testing.T) { // P22.2
 			t.Error(i, m, e)
 		}
 	}
+	kinds := list(one(1, none, 1), one(1, none, 1), one(1, none, 1))
+	kinds[0].Key = []api.Value{txt("k")}
+	kinds[1].Key = []api.Value{{Kind: api.KBlob, S: "k"}}
+	kinds[2].Key = []api.Value{txt("k"), {}}
+	if m, e := Merge(kinds); len(m) != 3 || e != api.OK {
+		t.Error("keys of other kinds:", m, e)
+	}
 	l := list(one(1, 1, 2), one(1, 2, 3))
 	Merge(l)
 	if !same(l, list(one(1, 1, 2), one(1, 2, 3))) {

@@ -244,6 +244,21 @@ func TestAborted(t *testing.T) { // P21.5
 	}
 }
 
+func TestUnreadable(t *testing.T) { // a COMMIT for which the header can't be read ends the transaction, too
+	g, d := fresh(t, table)
+	g.Checkpoint()
+	g.Run("BEGIN")
+	d.Power(0)
+	d.Sync(0)
+	if s := told(g.Run("COMMIT; COMMIT; ROLLBACK")); s != "E32; E9; E9" || g.In() {
+		t.Error(s)
+	}
+	d.Crash(nil)
+	if s := told(g.Run("BEGIN; ROLLBACK; SELECT * FROM t")); s != "0; 0; 2 a: 1 2" {
+		t.Error(s)
+	}
+}
+
 // list is a database as plain lists: t (a INTEGER, b TEXT, key a), its rows rising.
 type list struct {
 	there bool

@@ -90,6 +90,11 @@ func TestWrite(t *testing.T) { // P13.2
 	if s, e := Write(nil); s != "" || e != api.OK {
 		t.Error(s, e)
 	}
+	for _, x := range []api.Token{name(strings.Repeat("a", 32), 0), text(strings.Repeat("a", 1000), 0), blob(strings.Repeat("a", 1000), 0), num(0, 0)} {
+		if s, e := Write([]api.Token{x}); s == "" || e != api.OK {
+			t.Error(x.Kind, e)
+		}
+	}
 	good := name("a", 0)
 	for _, x := range []api.Token{
 		{}, {Kind: 7}, {Kind: 255, Text: "a"},

@@ -145,6 +145,7 @@ func TestTransaction(t *testing.T) { // P6.2, P6.3
 		want(t, "Resize", p.Resize(n), api.ErrRange)
 	}
 	want(t, "Write", p.Write(1, ""), api.ErrRange)
+	want(t, "Resize", p.Resize(256), api.OK)
 	want(t, "Resize", p.Resize(3), api.OK)
 	want(t, "Write", p.Write(0, page("a")), api.ErrRange)
 	want(t, "Write", p.Write(4, "a"), api.ErrRange)
@@ -282,6 +283,14 @@ func TestCommitFull(t *testing.T) { // P6.5: a log that is full is laid into the
 	v.Close()
 	d.Arm(2, api.ErrSpace)
 	want(t, "Checkpoint's error", commit(1, "e"), api.ErrSpace)
+	other, _ := fresh(t)
+	p, other = other, p
+	want(t, "half", commit(128, "a"), api.OK)
+	want(t, "just as many as may be", commit(128, "b"), api.OK)
+	if p.Log().Mark() != 256 || p.Log().Number() != 0 {
+		t.Error(p.Log().Mark())
+	}
+	p = other
 	if p.Pages() != 56 || p.Log().Mark() != 256 {
 		t.Error(p.Pages(), p.Log().Mark())
 	}

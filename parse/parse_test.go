@@ -162,6 +162,12 @@ func TestPrintExpr(t *testing.T) { // P14.3
 			t.Errorf("%.60q %d", s, e)
 		}
 	}
+	for n, e := range map[int]api.Errno{103: api.OK, 104: api.ErrArg} { // 4096 bytes, and one more
+		x := op(api.ExJoin, long, op(api.ExJoin, txt(strings.Repeat("a", 1000)), op(api.ExJoin, txt(strings.Repeat("a", 955)), txt(strings.Repeat("a", n)))))
+		if s, f := PrintExpr(x); f != e || e == api.OK && len(s) != api.MaxText {
+			t.Error(n, len(s), f)
+		}
+	}
 	wide := a
 	for range 60 {
 		wide = op(api.ExAdd, wide, wide)

@@ -74,6 +74,14 @@ func TestTake(t *testing.T) { // P9.2
 		t.Error(l, e)
 	}
 	k := strings.Repeat("k", 1000)
+	for s, n := range map[string]int{
+		"\x10" + strings.Repeat("\x00", 16):                          16,
+		"\x04\x8f\x52\x8f\x52\x8f\x52\x8f\x40" + k + k + k + k[:991]: 4, // 4000 bytes
+	} {
+		if l, e := Take(s); len(l) != n || e != api.OK {
+			t.Error(len(s), len(l), e)
+		}
+	}
 	for _, s := range []string{
 		"", "\x01\x00\x09", "\x01", "\x01\x04", "\x01\x06a", "\x01\x04ab", "\x00\x00",
 		"\x11" + strings.Repeat("\x00", 17), "\xff",

@@ -49,6 +49,7 @@ func TestCheck(t *testing.T) { // P16.1
 	for i, change := range []func(c []api.Table) []api.Table{
 		func(c []api.Table) []api.Table { return []api.Table{c[1], c[0]} },
 		func(c []api.Table) []api.Table { return []api.Table{c[0], c[0]} },
+		func(c []api.Table) []api.Table { return []api.Table{c[1], c[1]} },
 		func(c []api.Table) []api.Table { c[0].Name = "T"; return c },
 		func(c []api.Table) []api.Table { c[0].Name = ""; return c },
 		func(c []api.Table) []api.Table { c[0].Columns = nil; return c },
@@ -182,6 +183,21 @@ func TestDefineMany(t *testing.T) { // P16.2
 	}
 	if len(c[0].Indexes) != 4 || c[0].Indexes[0].Name != "b" || c[0].Indexes[3].Name != "z" {
 		t.Error(c[0].Indexes)
+	}
+}
+
+func TestSixteen(t *testing.T) { // as many columns as may be
+	var names []string
+	for i := range 16 {
+		names = append(names, "c"+strconv.Itoa(i))
+	}
+	keys := strings.Join(names, ", ")
+	c := defined(t, "CREATE TABLE t ("+strings.Join(names, " TEXT, ")+" TEXT, PRIMARY KEY ("+keys+"))", "CREATE INDEX i ON t ("+keys+")")
+	if Check(c) != api.OK || len(c[0].Key) != 16 || len(c[0].Indexes[0].Columns) != 16 {
+		t.Error(c)
+	}
+	if s, e := Resolve(c, stmt(t, "SELECT * FROM t")); len(s.Items) != 16 || e != api.OK {
+		t.Error(e)
 	}
 }
 

@@ -314,6 +314,20 @@ func TestDeleteGetRowsErrors(t *testing.T) { // P17.4, P17.5
 	}
 }
 
+func TestRowsParts(t *testing.T) { // P17.5: as many values as the index has columns
+	p := begun(t, "CREATE TABLE t (a INTEGER, b TEXT, c INTEGER, PRIMARY KEY (a, b))", "CREATE INDEX i ON t (c)", "CREATE INDEX j ON t (c, b, a)")
+	Insert(p, "t", row(num(1), text("x"), num(2)))
+	for index, n := range map[string]int{"": 2, "i": 1, "j": 3} {
+		for k := range 5 {
+			l := map[string][]api.Value{"": {num(1), text("x"), null, null}, "i": {num(2), null, null, null}, "j": {num(2), text("x"), num(1), null}}[index][:min(k, 4)]
+			r, e := Rows(p, "t", index, l)
+			if k <= n && (len(r) != 1 || e != api.OK) || k > n && (r != nil || e != api.ErrArg) {
+				t.Error(index, k, r, e)
+			}
+		}
+	}
+}
+
 func TestRowsOrder(t *testing.T) { // P17.5: the order of rows is that of their keys
 	p := begun(t, "CREATE TABLE t (a INTEGER, b TEXT, c INTEGER, PRIMARY KEY (a, b))", "CREATE INDEX i ON t (c, b)")
 	for i, s := range []string{"a", "aa", "b", "", "a\x00"} {

@@ -165,8 +165,10 @@ func TestLooks(t *testing.T) { // P5.2, P5.3
 	if len(f) != 2 || f[0] != (api.Frame{Page: 2, Commit: 2, Data: page("b")}) || f[1] != (api.Frame{Page: 1, Commit: 1, Data: page("c")}) || e != api.OK {
 		t.Error(f, e)
 	}
-	if f, e := l.Frames(3, 3); len(f) != 0 || e != api.OK {
-		t.Error(f, e)
+	for _, c := range [][3]int{{3, 3, 0}, {0, 0, 0}, {0, 3, 3}, {0, 1, 1}} {
+		if f, e := l.Frames(c[0], c[1]); len(f) != c[2] || e != api.OK {
+			t.Error(c, f, e)
+		}
 	}
 }
 

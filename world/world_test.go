@@ -177,6 +177,20 @@ func TestOff(t *testing.T) { // a node that is off
 	}
 }
 
+func TestBackupGone(t *testing.T) { // a crash of the node that has the backup, or of the one that leads
+	for n := range api.Nodes {
+		w := New()
+		s := played(w, run(create), with(api.ActBackup, 0), with(api.ActStep, 0), at(api.ActCrash, n), with(api.ActStep, 0))
+		want := "ok 0; ok; ok; ok; ok"
+		if n == api.NodeLead || n == api.NodeBackup {
+			want = "ok 0; ok; ok; ok; E4"
+		}
+		if s != want || (w.Backup() == nil) != strings.HasSuffix(want, "E4") {
+			t.Error(n, s)
+		}
+	}
+}
+
 func TestDown(t *testing.T) { // a node that is down
 	w := New()
 	played(w, run(create), at(api.ActTick, 0), with(api.ActDeliver, 1))

@@ -1,6 +1,7 @@
 package btree
 
 import (
+	"maps"
 	"slices"
 	"sort"
 
@@ -54,8 +55,25 @@ func (x *edit) take() (int, api.Errno) {
 	return page, api.OK
 }
 
+// images: the pages that become others, rising.
+func (x *edit) images() ([]api.Image, api.Errno) {
+	var list []api.Image
+	for _, page := range slices.Sorted(maps.Keys(x.nodes)) {
+		s, e := node.Put(x.nodes[page])
+		if e != api.OK {
+			return nil, api.ErrBytes
+		}
+		list = append(list, api.Image{Page: page, Data: s})
+	}
+	return list, api.OK
+}
+
 // done: what was thought out is done; the root is answered.
 func (x *edit) done(root int) (int, api.Errno) {
+	list, e := x.images()
+	if e != api.OK {
+		return 0, e
+	}
 	for _, page := range x.taken {
 		n, e := space.Alloc(x.p)
 		if e != api.OK {
@@ -65,12 +83,8 @@ func (x *edit) done(root int) (int, api.Errno) {
 			return 0, api.ErrBytes
 		}
 	}
-	for page, n := range x.nodes {
-		s, e := node.Put(n)
-		if e != api.OK {
-			return 0, api.ErrBytes
-		}
-		if e := x.p.Write(page, s); e != api.OK {
+	for _, m := range list {
+		if e := x.p.Write(m.Page, m.Data); e != api.OK {
 			return 0, e
 		}
 	}

@@ -441,3 +441,30 @@ func TestModel(t *testing.T) { // P6.7, P6.8
 		}
 	}
 }
+
+func TestCommitHeadNotWritten(t *testing.T) { // P6.5: where the head's Write fails the next Commit does no more than Append's four steps
+	commit := func(p *Pager) api.Errno {
+		want(t, "begin", p.Begin(), api.OK)
+		want(t, "resize", p.Resize(1), api.OK)
+		want(t, "write", p.Write(1, page("a")), api.OK)
+		return p.Commit()
+	}
+	for _, fails := range []api.Errno{api.ErrIO, api.ErrSpace} {
+		p, d := fresh(t)
+		d.Arm(2, fails)
+		want(t, "the head's write", commit(p), fails)
+		if d.Ops() != 3 || p.Pages() != 0 {
+			t.Error(d.Ops(), p.Pages())
+		}
+		want(t, "commit", commit(p), api.OK)
+		if d.Ops() != 7 || p.Pages() != 1 {
+			t.Error(d.Ops(), p.Pages())
+		}
+		d.Arm(2, fails)
+		want(t, "the head's write", p.Checkpoint(), fails)
+		want(t, "commit", commit(p), api.OK)
+		if d.Ops() != 7+3+4 {
+			t.Error(d.Ops())
+		}
+	}
+}

@@ -440,3 +440,149 @@ func TestKept(t *testing.T) { // P5.6, P5.7
 		}
 	}
 }
+
+func TestHeadNotWritten(t *testing.T) { // P5.4, P5.5: a Write of the head that fails tears nothing
+	for _, fails := range []api.Errno{api.ErrIO, api.ErrSpace} {
+		for _, headed := range []bool{false, true} {
+			d := files.New()
+			l := opened(t, d)
+			if headed {
+				want(t, "append", l.Append(1, image(1, "z")), api.OK)
+			}
+			mark, before, ops := l.Mark(), told(t, l), d.Ops()
+			d.Arm(2, fails)
+			want(t, "the head's write", l.Append(1, image(1, "a")), fails)
+			if d.Ops() != ops+3 || l.Mark() != mark || !same(told(t, opened(t, d.Copy())), before) {
+				t.Error(headed, d.Ops()-ops, l.Mark())
+			}
+			want(t, "append", l.Append(1, image(1, "a")), api.OK)
+			if d.Ops() != ops+7 {
+				t.Error("nothing was to be mended:", headed, d.Ops()-ops)
+			}
+			ops = d.Ops()
+			d.Arm(2, fails)
+			want(t, "the head's write", l.Checkpoint(), fails)
+			want(t, "checkpoint", l.Checkpoint(), api.OK)
+			if d.Ops() != ops+7 || !same(told(t, opened(t, d)), []string{page("a")}) {
+				t.Error("nothing was to be mended:", headed, d.Ops()-ops)
+			}
+		}
+	}
+}
+
+func TestTornStays(t *testing.T) { // P5.4, P5.5: a Write that fails mends nothing either
+	calls := []func(l *Log) api.Errno{
+		func(l *Log) api.Errno { return l.Append(1, image(1, "b")) },
+		(*Log).Checkpoint,
+	}
+	for _, torn := range calls {
+		for _, mends := range calls {
+			d := files.New()
+			l := opened(t, d)
+			want(t, "append", l.Append(1, image(1, "a")), api.OK)
+			d.Arm(3, api.ErrIO)
+			want(t, "the head's sync", torn(l), api.ErrIO)
+			ops := d.Ops()
+			for range 2 {
+				d.Arm(0, api.ErrSpace)
+				want(t, "mending", mends(l), api.ErrSpace)
+			}
+			d.Arm(4, api.ErrIO)
+			want(t, "mended, but the new head's write", mends(l), api.ErrIO)
+			want(t, "not torn any more", mends(l), api.OK)
+			if d.Ops() != ops+1+1+5+4 {
+				t.Error(d.Ops() - ops)
+			}
+		}
+	}
+}
+
+// steps: what a log does with its disk, as the promises say it, held against how many operations there are.
+type steps struct {
+	d     *files.Disk
+	ops   int
+	armed map[int]api.Errno
+	torn  bool
+}
+
+const (
+	stepOther = iota // writes of frames and pages, the cut, the main file's sync
+	stepHead         // the head's write
+	stepSync         // the log's sync
+)
+
+// arm: an operation fails.
+func (s *steps) arm(n int, e api.Errno) {
+	s.d.Arm(n, e)
+	s.armed[s.ops+n] = e
+}
+
+// answer: what a call answers that does these kinds of operations, behind mending.
+func (s *steps) answer(kinds ...int) api.Errno {
+	if s.torn {
+		kinds = append([]int{stepHead, stepSync}, kinds...)
+	}
+	for _, k := range kinds {
+		e := s.armed[s.ops]
+		s.ops++
+		if e != api.OK {
+			return e
+		}
+		switch k {
+		case stepHead:
+			s.torn = true
+		case stepSync:
+			s.torn = false
+		}
+	}
+	return api.OK
+}
+
+// checkpoint: what a Checkpoint answers.
+func (s *steps) checkpoint(l *Log) api.Errno {
+	if l.Mark() == 0 {
+		return api.OK
+	}
+	list, _ := l.Frames(0, l.Mark())
+	laid, sectors := map[int]bool{}, s.d.Size(api.MainFile)
+	for _, f := range list {
+		if f.Page <= l.Pages() {
+			laid[f.Page] = true
+			sectors = max(sectors, 8*f.Page)
+		}
+	}
+	var kinds []int
+	for range laid {
+		kinds = append(kinds, stepOther)
+	}
+	if sectors > 8*l.Pages() {
+		kinds = append(kinds, stepOther)
+	}
+	return s.answer(append(kinds, stepOther, stepHead, stepSync)...)
+}
+
+func TestSteps(t *testing.T) { // P5.4, P5.5: just these steps, whatever fails
+	for seed := range int64(300) {
+		r := rand.New(rand.NewSource(seed))
+		d := files.New()
+		l := opened(t, d)
+		s := &steps{d: d, armed: map[int]api.Errno{}}
+		for range 40 {
+			for range r.Intn(3) {
+				s.arm(r.Intn(8), []api.Errno{api.ErrIO, api.ErrSpace}[r.Intn(2)])
+			}
+			var asked, answered api.Errno
+			if r.Intn(3) == 0 {
+				asked = s.checkpoint(l)
+				answered = l.Checkpoint()
+			} else {
+				pages := 1 + r.Intn(5)
+				asked = s.answer(stepOther, stepSync, stepHead, stepSync)
+				answered = l.Append(pages, image(1+r.Intn(pages), "p"))
+			}
+			if answered != asked || d.Ops() != s.ops {
+				t.Fatalf("seed %d: answered %d, not %d; %d operations, not %d", seed, answered, asked, d.Ops(), s.ops)
+			}
+		}
+	}
+}
